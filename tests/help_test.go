@@ -47,20 +47,26 @@ func allPairs(n int) [][]int64 {
 	return pairs
 }
 
+// allGraphs returns every graph of n vertices.
+func allGraphs(n int) []impl.Graph {
+	list := []impl.Graph{}
+	pairs := allPairs(n)
+	for code := range 1 << len(pairs) {
+		at := map[[2]int]bool{}
+		for bit, p := range pairs {
+			at[[2]int{int(p[0]), int(p[1])}] = code>>bit&1 == 1
+		}
+		list = append(list, fromPairs(n, func(u, v int) bool { return at[[2]int{u, v}] }))
+	}
+	return list
+}
+
 // someGraphs returns every graph of up to four vertices and, for each greater size up to MaxV,
 // graphs of several densities whose edges follow a fixed rule.
 func someGraphs() []impl.Graph {
 	list := []impl.Graph{}
 	for n := 1; n <= 4; n++ {
-		for code := range 1 << (n * (n - 1) / 2) {
-			bit := 0
-			at := map[[2]int]bool{}
-			for _, p := range allPairs(n) {
-				at[[2]int{int(p[0]), int(p[1])}] = code>>bit&1 == 1
-				bit++
-			}
-			list = append(list, fromPairs(n, func(u, v int) bool { return at[[2]int{u, v}] }))
-		}
+		list = append(list, allGraphs(n)...)
 	}
 	for n := 5; n <= impl.MaxV; n++ {
 		list = append(list, emptyGraph(n), fullGraph(n))
